@@ -305,7 +305,7 @@ func TestFunctionInverse(t *testing.T) {
 		got, ok := impl.ParseFunction(s)
 		wantFunction(t, "ParseFunction("+strconv.Quote(s)+")", got, ok, f)
 	}
-	// What is read is what is written, for every text of up to six of these.
+	// What is read is what is written, for every text of up to five of these.
 	signs := "019-,"
 	texts := []string{""}
 	for range 6 {
