@@ -408,6 +408,28 @@ func TestDualFunctionInvalid(t *testing.T) {
 	}
 }
 
+// keepMemory writes over the result of each call: neither an argument nor the
+// result of the next call may change with it.
+func keepMemory(t *testing.T, calls map[string]func() ([]int, bool), same ...func() bool) {
+	t.Helper()
+	for name, call := range calls {
+		first, ok := call()
+		want := slices.Clone(first)
+		for i := range first {
+			first[i] = 99
+		}
+		second, again := call()
+		if !ok || !again || !slices.Equal(second, want) {
+			t.Errorf("%s: %v, %v, then %v, %v", name, want, ok, second, again)
+		}
+		for _, isSame := range same {
+			if !isSame() {
+				t.Errorf("%s: an argument was modified", name)
+			}
+		}
+	}
+}
+
 // The values after the length are unused capacity, which stays as it was too.
 func TestClosureMemory(t *testing.T) {
 	for n := range 6 {
@@ -423,19 +445,6 @@ func TestClosureMemory(t *testing.T) {
 			"ClosureOf":        func() ([]int, bool) { return []int{impl.ClosureOf(f, whole)}, true },
 			"IsFlat":           func() ([]int, bool) { return nil, impl.IsFlat(f, whole) },
 		}
-		for name, call := range calls {
-			first, ok := call()
-			want := slices.Clone(first)
-			for i := range first {
-				first[i] = 99
-			}
-			second, again := call()
-			if !ok || !again || !slices.Equal(second, want) {
-				t.Errorf("%s: %v, %v, then %v, %v", name, want, ok, second, again)
-			}
-			if !same() || !sameWeights() {
-				t.Errorf("%s: an argument was modified", name)
-			}
-		}
+		keepMemory(t, calls, same, sameWeights)
 	}
 }

@@ -547,19 +547,6 @@ func TestExtensionMemory(t *testing.T) {
 				return []int{v}, ok
 			},
 		}
-		for name, call := range calls {
-			first, ok := call()
-			want := slices.Clone(first)
-			for i := range first {
-				first[i] = 99
-			}
-			second, again := call()
-			if !ok || !again || !slices.Equal(second, want) {
-				t.Errorf("%s: %v, %v, then %v, %v", name, want, ok, second, again)
-			}
-			if !sameF() || !sameX() || !sameY() {
-				t.Errorf("%s: an argument was modified", name)
-			}
-		}
+		keepMemory(t, calls, sameF, sameX, sameY)
 	}
 }
